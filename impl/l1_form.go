@@ -217,10 +217,12 @@ func areGenerators(generators []Matrix) bool {
 }
 
 func isIndexWord(word []int, count int) bool {
-	if len(word) > MaxWord {
-		return false
-	}
-	for _, index := range word {
+	return len(word) <= MaxWord && areIndices(word, count)
+}
+
+// areIndices has no limit of length, as there are words of more than MaxWord indices.
+func areIndices(list []int, count int) bool {
+	for _, index := range list {
 		if index < 0 || index >= count {
 			return false
 		}
