@@ -101,21 +101,23 @@ func imageOf(value reflect.Value) reflect.Value {
 	return value
 }
 
-// slicesIn returns all slices of numbers in a value, up to their capacity.
-func slicesIn(value reflect.Value) [][]int {
-	var found [][]int
+// placesIn returns where the numbers in the slices of a value lie, up to their capacity.
+func placesIn(value reflect.Value) []*int {
+	var found []*int
 	switch value.Kind() {
 	case reflect.Slice:
 		full := value.Slice3(0, value.Cap(), value.Cap())
-		if list, ok := full.Interface().([]int); ok {
-			return append(found, list)
-		}
 		for i := range full.Len() {
-			found = append(found, slicesIn(full.Index(i))...)
+			found = append(found, placesIn(full.Index(i))...)
 		}
 	case reflect.Struct:
 		for i := range value.NumField() {
-			found = append(found, slicesIn(value.Field(i))...)
+			found = append(found, placesIn(value.Field(i))...)
+		}
+	case reflect.Int:
+		// A number that lies in no slice has no place that it could share.
+		if value.CanAddr() {
+			found = append(found, value.Addr().Interface().(*int))
 		}
 	}
 	return found
@@ -126,19 +128,14 @@ func scribble(results []any) bool {
 	apart := true
 	next := 1000001
 	for _, result := range results {
-		lists := slicesIn(reflect.ValueOf(result))
+		places := placesIn(reflect.ValueOf(result))
 		first := next
-		for _, list := range lists {
-			for i := range list {
-				list[i] = next
-				next++
-			}
+		for _, place := range places {
+			*place = next
+			next++
 		}
-		for _, list := range lists {
-			for i := range list {
-				apart = apart && list[i] == first
-				first++
-			}
+		for i, place := range places {
+			apart = apart && *place == first+i
 		}
 	}
 	return apart
